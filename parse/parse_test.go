@@ -419,6 +419,7 @@ func TestAgainstModel(t *testing.T) {
 	hold := func(_ *rand.Rand, text string) { agrees(t, text) }
 	someSources(1500, hold)
 	someMess(1500, hold)
+	someBytes(1500, hold)
 }
 
 // P6.1: a source that is cut anywhere.

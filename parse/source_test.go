@@ -311,3 +311,18 @@ func someMess(count int, visit func(r *rand.Rand, text string)) {
 		visit(r, spaced(r, parts))
 	}
 }
+
+// someBytes calls visit with strings of bytes of all sorts, many of which stand in sources.
+func someBytes(count int, visit func(r *rand.Rand, text string)) {
+	r := rand.New(rand.NewSource(666))
+	for range count {
+		b := make([]byte, r.Intn(40))
+		for i := range b {
+			b[i] = byte(r.Intn(256))
+			if r.Intn(2) == 0 {
+				b[i] = "def f(x)=1;\n \"/"[r.Intn(15)]
+			}
+		}
+		visit(r, string(b))
+	}
+}

@@ -17,17 +17,7 @@ func anyStrings(visit func(text string)) {
 	hold := func(_ *rand.Rand, text string) { visit(text) }
 	someSources(1500, hold)
 	someMess(1500, hold)
-	r := rand.New(rand.NewSource(606))
-	for range 1500 {
-		b := make([]byte, r.Intn(40))
-		for i := range b {
-			b[i] = byte(r.Intn(256))
-			if r.Intn(2) == 0 {
-				b[i] = "def f(x)=1;\n \"/"[r.Intn(15)]
-			}
-		}
-		visit(string(b))
-	}
+	someBytes(1500, hold)
 }
 
 // P6.4: the string of the tree is the string, and its leaves are the tokens.
